@@ -1,0 +1,183 @@
+// Package language tests that the program keeps to shared/LANGUAGE.md, as far as its text shows it.
+package language
+
+import (
+	"bytes"
+	"go/ast"
+	"go/format"
+	"go/parser"
+	"go/token"
+	"os"
+	"path/filepath"
+	"slices"
+	"strconv"
+	"strings"
+	"testing"
+)
+
+const root = ".."
+
+// maxLines is the length of a function that rule 9 allows.
+const maxLines = 60
+
+var allowed = []string{
+	"bytes", "cmp", "container/heap", "errors", "iter", "maps", "math", "math/bits", "slices", "sort", "strconv", "strings",
+	"sync", "sync/atomic", "unicode", "unicode/utf8",
+}
+
+var layers = []string{"debt", "hide", "stitch", "strap", "kin", "mend", "brand", "mark", "watch", "chest", "saddler"}
+
+type source struct {
+	path string
+	text []byte
+	fset *token.FileSet
+	file *ast.File
+}
+
+// sources returns the files, without tests, of the layers and of all packages that they import, but api, which is given.
+func sources(t *testing.T) []source {
+	t.Helper()
+	var out []source
+	folders := slices.Clone(layers)
+	for i := 0; i < len(folders); i++ { // folders grows
+		for _, s := range inFolder(t, folders[i]) {
+			out = append(out, s)
+			for _, name := range imports(s) {
+				own, ok := strings.CutPrefix(name, "pommel/")
+				if ok && own != "api" && !slices.Contains(folders, own) {
+					folders = append(folders, own)
+				}
+			}
+		}
+	}
+	if len(out) < len(layers) {
+		t.Fatalf("%d files", len(out))
+	}
+	return out
+}
+
+func inFolder(t *testing.T, folder string) []source {
+	t.Helper()
+	paths, err := filepath.Glob(filepath.Join(root, folder, "*"))
+	if err != nil {
+		t.Fatal(err)
+	}
+	var out []source
+	for _, path := range paths {
+		if filepath.Ext(path) != ".go" {
+			t.Errorf("%s: a file beside the Go files", path)
+		}
+		if filepath.Ext(path) != ".go" || strings.HasSuffix(path, "_test.go") {
+			continue
+		}
+		text, err := os.ReadFile(path)
+		if err != nil {
+			t.Fatal(err)
+		}
+		s := source{path: path, text: text, fset: token.NewFileSet()}
+		if s.file, err = parser.ParseFile(s.fset, path, text, parser.ParseComments); err != nil {
+			t.Fatal(err)
+		}
+		out = append(out, s)
+	}
+	return out
+}
+
+func imports(s source) []string {
+	var names []string
+	for _, i := range s.file.Imports {
+		name, _ := strconv.Unquote(i.Path.Value)
+		names = append(names, name)
+	}
+	return names
+}
+
+func TestImports(t *testing.T) {
+	for _, s := range sources(t) {
+		own := filepath.Base(filepath.Dir(s.path))
+		for _, name := range imports(s) {
+			part, ours := strings.CutPrefix(name, "pommel/")
+			if !ours && !slices.Contains(allowed, name) {
+				t.Errorf("%s imports %s", s.path, name)
+			}
+			if own != "saddler" && slices.Contains(layers, part) {
+				t.Errorf("%s imports the layer %s", s.path, part)
+			}
+		}
+	}
+}
+
+func TestComments(t *testing.T) {
+	said := map[string]bool{}
+	for _, s := range sources(t) {
+		for _, group := range s.file.Comments {
+			for _, c := range group.List {
+				if strings.HasPrefix(c.Text, "//go:") || strings.HasPrefix(c.Text, "// +build") {
+					t.Errorf("%s: %s", s.path, c.Text)
+				}
+			}
+		}
+		name := s.file.Name.Name
+		said[name] = said[name] || s.file.Doc != nil
+	}
+	for name, ok := range said {
+		if !ok {
+			t.Errorf("no comment says what package %s is", name)
+		}
+	}
+}
+
+func TestLayout(t *testing.T) {
+	for _, s := range sources(t) {
+		if text, err := format.Source(s.text); err != nil || !bytes.Equal(text, s.text) {
+			t.Errorf("%s is not laid out by gofmt", s.path)
+		}
+		for _, d := range s.file.Decls {
+			f, ok := d.(*ast.FuncDecl)
+			if !ok {
+				continue
+			}
+			if n := s.fset.Position(f.End()).Line - s.fset.Position(f.Pos()).Line + 1; n > maxLines {
+				t.Errorf("%s: %s has %d lines", s.path, f.Name.Name, n)
+			}
+			if f.Name.IsExported() && f.Doc == nil {
+				t.Errorf("%s: no comment says what %s does", s.path, f.Name.Name)
+			}
+		}
+	}
+}
+
+// TestVariables: rules 3a and 3b: what a package keeps is a table, or an error made by errors.New.
+func TestVariables(t *testing.T) {
+	for _, s := range sources(t) {
+		for _, d := range s.file.Decls {
+			g, ok := d.(*ast.GenDecl)
+			if !ok || g.Tok != token.VAR {
+				continue
+			}
+			for _, spec := range g.Specs {
+				v := spec.(*ast.ValueSpec)
+				if len(v.Values) != len(v.Names) {
+					t.Errorf("%s: %s has no value", s.path, v.Names[0].Name)
+				}
+				for _, value := range v.Values {
+					checkValue(t, s, value)
+				}
+			}
+		}
+	}
+}
+
+func checkValue(t *testing.T, s source, value ast.Expr) {
+	ast.Inspect(value, func(n ast.Node) bool {
+		switch x := n.(type) {
+		case *ast.CallExpr:
+			if f, ok := x.Fun.(*ast.SelectorExpr); !ok || f.Sel.Name != "New" {
+				t.Errorf("%s: a value is computed by a call", s.fset.Position(n.Pos()))
+			}
+		case *ast.MapType, *ast.FuncLit, *ast.FuncType:
+			t.Errorf("%s: a map or a function in the state of a package", s.fset.Position(n.Pos()))
+		}
+		return true
+	})
+}
