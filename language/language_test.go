@@ -107,6 +107,67 @@ func TestImports(t *testing.T) {
 	}
 }
 
+// TestParts: rule 1 allows some packages only in part.
+func TestParts(t *testing.T) {
+	for _, s := range sources(t) {
+		ast.Inspect(s.file, func(n ast.Node) bool {
+			x, ok := n.(*ast.SelectorExpr)
+			if !ok {
+				return true
+			}
+			of, ok := x.X.(*ast.Ident)
+			if !ok {
+				return true
+			}
+			pulls := of.Name == "iter" && strings.HasPrefix(x.Sel.Name, "Pull")
+			if pulls || of.Name == "sync" && !slices.Contains([]string{"Mutex", "RWMutex", "WaitGroup", "Once"}, x.Sel.Name) {
+				t.Errorf("%s: %s.%s", s.fset.Position(n.Pos()), of.Name, x.Sel.Name)
+			}
+			return true
+		})
+	}
+}
+
+// TestRangeFunction: the way of package stitch: the letters of a seam are yielded by a function that is ranged over.
+func TestRangeFunction(t *testing.T) {
+	yields := map[string]bool{}
+	var ranged []string
+	for _, s := range inFolder(t, "stitch") {
+		ast.Inspect(s.file, func(n ast.Node) bool {
+			switch x := n.(type) {
+			case *ast.FuncDecl:
+				yields[x.Name.Name] = yields[x.Name.Name] || isSequence(x.Type.Results)
+			case *ast.RangeStmt:
+				if call, ok := x.X.(*ast.CallExpr); ok {
+					if f, ok := call.Fun.(*ast.Ident); ok {
+						ranged = append(ranged, f.Name)
+					}
+				}
+			}
+			return true
+		})
+	}
+	if !slices.ContainsFunc(ranged, func(name string) bool { return yields[name] }) {
+		t.Error("no function is ranged over")
+	}
+}
+
+// isSequence reports whether a function has one result, an iter.Seq or an iter.Seq2.
+func isSequence(results *ast.FieldList) bool {
+	if results == nil || len(results.List) != 1 {
+		return false
+	}
+	kind := results.List[0].Type
+	switch x := kind.(type) {
+	case *ast.IndexExpr:
+		kind = x.X
+	case *ast.IndexListExpr:
+		kind = x.X
+	}
+	x, ok := kind.(*ast.SelectorExpr)
+	return ok && strings.HasPrefix(x.Sel.Name, "Seq")
+}
+
 func TestComments(t *testing.T) {
 	said := map[string]bool{}
 	for _, s := range sources(t) {
