@@ -168,6 +168,34 @@ func isSequence(results *ast.FieldList) bool {
 	return ok && strings.HasPrefix(x.Sel.Name, "Seq")
 }
 
+// TestStrapWays: the ways of package strap: numbers are counted by ranging over an integer, kinds of search are functions in fields.
+func TestStrapWays(t *testing.T) {
+	counts, fields := 0, 0
+	for _, s := range inFolder(t, "strap") {
+		ast.Inspect(s.file, func(n ast.Node) bool {
+			switch x := n.(type) {
+			case *ast.RangeStmt:
+				if sum, ok := x.X.(*ast.BinaryExpr); ok && sum.Op == token.SUB { // what is ranged over is a number, if it is a difference
+					counts++
+				}
+			case *ast.StructType:
+				for _, field := range x.Fields.List {
+					if _, ok := field.Type.(*ast.FuncType); ok {
+						fields++
+					}
+				}
+			}
+			return true
+		})
+	}
+	if counts == 0 {
+		t.Error("no integer is ranged over")
+	}
+	if fields == 0 {
+		t.Error("no field is a function")
+	}
+}
+
 func TestComments(t *testing.T) {
 	said := map[string]bool{}
 	for _, s := range sources(t) {
