@@ -32,6 +32,11 @@ func lowest(below bool, top, bottom nat) Ratio {
 		top, _ = divNat(top, common)
 		bottom, _ = divNat(bottom, common)
 	}
+	return inLowest(below, top, bottom)
+}
+
+// inLowest returns a fraction that is in lowest terms, and not 0.
+func inLowest(below bool, top, bottom nat) Ratio {
 	if isOne(bottom) {
 		bottom = nil
 	}
@@ -61,18 +66,29 @@ func (r Ratio) Negated() Ratio {
 	return Ratio{below: !r.below && len(r.top) > 0, top: r.top, bottom: r.bottom}
 }
 
-// Plus returns the sum.
+// Plus returns the sum. What it has in common with its denominator divides what the denominators have in common, which is often small:
+// so no common divisor of two great numbers has to be found.
 func (r Ratio) Plus(o Ratio) Ratio {
-	a := mulNat(r.top, o.denominator())
-	b := mulNat(o.top, r.denominator())
-	bottom := mulNat(r.denominator(), o.denominator())
-	if r.below == o.below {
-		return lowest(r.below, addNat(a, b), bottom)
+	common := gcdNat(r.denominator(), o.denominator())
+	own, _ := divNat(r.denominator(), common)
+	others, _ := divNat(o.denominator(), common)
+	below, top := addSigned(r.below, mulNat(r.top, others), o.below, mulNat(o.top, own))
+	sum := lowest(below, top, common)
+	if sum.Sign() == 0 {
+		return sum
 	}
-	if compareNat(a, b) >= 0 {
-		return lowest(r.below, subNat(a, b), bottom)
+	return inLowest(sum.below, sum.top, mulNat(sum.denominator(), mulNat(own, others)))
+}
+
+// addSigned adds two numbers of which is told whether they are below 0, and tells it of the sum.
+func addSigned(aBelow bool, a nat, bBelow bool, b nat) (bool, nat) {
+	switch {
+	case aBelow == bBelow:
+		return aBelow, addNat(a, b)
+	case compareNat(a, b) >= 0:
+		return aBelow, subNat(a, b)
 	}
-	return lowest(o.below, subNat(b, a), bottom)
+	return bBelow, subNat(b, a)
 }
 
 // Minus returns the difference.

@@ -196,6 +196,31 @@ func TestStrapWays(t *testing.T) {
 	}
 }
 
+// TestKinWays: the ways of package kin: halves are formed by a generic function, three sums are an array that is compared.
+func TestKinWays(t *testing.T) {
+	generic, compared := false, false
+	for _, s := range inFolder(t, "kin") {
+		ast.Inspect(s.file, func(n ast.Node) bool {
+			switch x := n.(type) {
+			case *ast.FuncDecl:
+				generic = generic || x.Name.Name == "half" && x.Type.TypeParams != nil
+			case *ast.BinaryExpr:
+				if list, ok := x.Y.(*ast.CompositeLit); ok && (x.Op == token.EQL || x.Op == token.NEQ) {
+					kind, ok := list.Type.(*ast.ArrayType)
+					compared = compared || ok && kind.Len != nil
+				}
+			}
+			return true
+		})
+	}
+	if !generic {
+		t.Error("no generic function forms halves")
+	}
+	if !compared {
+		t.Error("no array is compared")
+	}
+}
+
 func TestComments(t *testing.T) {
 	said := map[string]bool{}
 	for _, s := range sources(t) {
