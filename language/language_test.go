@@ -221,6 +221,38 @@ func TestKinWays(t *testing.T) {
 	}
 }
 
+// TestMendWays: the ways of package mend: sets of jobs are keys of a map, jobs with chances embed plain ones.
+func TestMendWays(t *testing.T) {
+	keys, deletes, embeds, promoted := false, false, false, false
+	for _, s := range inFolder(t, "mend") {
+		ast.Inspect(s.file, func(n ast.Node) bool {
+			switch x := n.(type) {
+			case *ast.MapType:
+				key, ok := x.Key.(*ast.Ident)
+				keys = keys || ok && key.Name == "set"
+			case *ast.CallExpr:
+				f, ok := x.Fun.(*ast.Ident)
+				deletes = deletes || ok && f.Name == "delete"
+			case *ast.StructType:
+				embeds = embeds || slices.ContainsFunc(x.Fields.List, func(field *ast.Field) bool {
+					of, ok := field.Type.(*ast.SelectorExpr)
+					return ok && field.Names == nil && of.Sel.Name == "Job"
+				})
+			case *ast.SelectorExpr:
+				of, ok := x.X.(*ast.Ident)
+				promoted = promoted || ok && of.Name == "u" && x.Sel.Name == "Weight" // u is what such jobs are called
+			}
+			return true
+		})
+	}
+	if !keys || !deletes {
+		t.Error("sets are no keys of a map, or are not deleted from it")
+	}
+	if !embeds || !promoted {
+		t.Error("no plain job is embedded, or no field of it is promoted")
+	}
+}
+
 func TestComments(t *testing.T) {
 	said := map[string]bool{}
 	for _, s := range sources(t) {
