@@ -253,6 +253,39 @@ func TestMendWays(t *testing.T) {
 	}
 }
 
+// TestBrandWays: the ways of package brand: what words do are values of an interface, which a type switch distinguishes.
+func TestBrandWays(t *testing.T) {
+	methods := map[string]bool{} // the types with the method of the interface
+	isInterface := false
+	var cases []string
+	for _, s := range inFolder(t, "brand") {
+		ast.Inspect(s.file, func(n ast.Node) bool {
+			switch x := n.(type) {
+			case *ast.TypeSpec:
+				kind, ok := x.Type.(*ast.InterfaceType)
+				isInterface = isInterface || ok && x.Name.Name == "deed" && len(kind.Methods.List) > 0
+			case *ast.FuncDecl:
+				if x.Recv != nil && x.Name.Name == "from" {
+					methods[x.Recv.List[0].Type.(*ast.Ident).Name] = true
+				}
+			case *ast.TypeSwitchStmt:
+				for _, c := range x.Body.List {
+					for _, kind := range c.(*ast.CaseClause).List {
+						cases = append(cases, kind.(*ast.Ident).Name)
+					}
+				}
+			}
+			return true
+		})
+	}
+	if !isInterface {
+		t.Error("what words do is no interface")
+	}
+	if len(methods) < 2 || len(cases) != len(methods) || slices.ContainsFunc(cases, func(name string) bool { return !methods[name] }) {
+		t.Errorf("the type switch distinguishes %v, of %v", cases, methods)
+	}
+}
+
 func TestComments(t *testing.T) {
 	said := map[string]bool{}
 	for _, s := range sources(t) {
