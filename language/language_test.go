@@ -286,6 +286,41 @@ func TestBrandWays(t *testing.T) {
 	}
 }
 
+// TestMarkWays: the ways of package mark: kinds of lengths are numbered with iota; words are written one after the other by a function that takes any number of them.
+func TestMarkWays(t *testing.T) {
+	numbered, called := false, false
+	takesAny := map[string]bool{}
+	for _, s := range inFolder(t, "mark") {
+		ast.Inspect(s.file, func(n ast.Node) bool {
+			switch x := n.(type) {
+			case *ast.ValueSpec:
+				kind, ok := x.Type.(*ast.Ident)
+				numbered = numbered || ok && kind.Name == "kind" && slices.ContainsFunc(x.Values, isIota)
+			case *ast.FuncDecl:
+				if list := x.Type.Params.List; len(list) > 0 {
+					_, ok := list[len(list)-1].Type.(*ast.Ellipsis)
+					takesAny[x.Name.Name] = ok
+				}
+			case *ast.CallExpr:
+				f, ok := x.Fun.(*ast.Ident)
+				called = called || ok && f.Name == "written"
+			}
+			return true
+		})
+	}
+	if !numbered {
+		t.Error("kinds of lengths are not numbered with iota")
+	}
+	if !takesAny["written"] || !called {
+		t.Error("no function that takes any number of words writes them")
+	}
+}
+
+func isIota(value ast.Expr) bool {
+	name, ok := value.(*ast.Ident)
+	return ok && name.Name == "iota"
+}
+
 func TestComments(t *testing.T) {
 	said := map[string]bool{}
 	for _, s := range sources(t) {
