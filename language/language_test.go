@@ -321,6 +321,54 @@ func isIota(value ast.Expr) bool {
 	return ok && name.Name == "iota"
 }
 
+// TestWatchWays: the ways of package watch: what a hand has done is a method value; cuts are collected by ranging over a map.
+func TestWatchWays(t *testing.T) {
+	isMethod := false
+	values := 0 // how often the method is named and not called
+	maps := map[string]bool{}
+	ranged := false
+	for _, s := range inFolder(t, "watch") {
+		ast.Inspect(s.file, func(n ast.Node) bool {
+			switch x := n.(type) {
+			case *ast.FuncDecl:
+				isMethod = isMethod || x.Name.Name == "done" && x.Recv != nil
+			case *ast.SelectorExpr:
+				if x.Sel.Name == "done" {
+					values++
+				}
+			case *ast.CallExpr:
+				if f, ok := x.Fun.(*ast.SelectorExpr); ok && f.Sel.Name == "done" {
+					values--
+				}
+			case *ast.AssignStmt:
+				name, isName := x.Lhs[0].(*ast.Ident)
+				if list, ok := x.Rhs[0].(*ast.CompositeLit); ok && isName && isCutMap(list.Type) {
+					maps[name.Name] = true
+				}
+			case *ast.RangeStmt:
+				name, ok := x.X.(*ast.Ident)
+				ranged = ranged || ok && maps[name.Name]
+			}
+			return true
+		})
+	}
+	if !isMethod || values == 0 {
+		t.Error("what a hand has done is no method value")
+	}
+	if !ranged {
+		t.Error("no map of cuts is ranged over")
+	}
+}
+
+func isCutMap(kind ast.Expr) bool {
+	m, ok := kind.(*ast.MapType)
+	if !ok {
+		return false
+	}
+	key, ok := m.Key.(*ast.Ident)
+	return ok && key.Name == "cut"
+}
+
 func TestComments(t *testing.T) {
 	said := map[string]bool{}
 	for _, s := range sources(t) {
