@@ -369,6 +369,45 @@ func isCutMap(kind ast.Expr) bool {
 	return ok && key.Name == "cut"
 }
 
+// TestChestWays: the way of package chest: a page that is malformed ends reading by a panic that is recovered in a deferred function literal.
+func TestChestWays(t *testing.T) {
+	panics, recovers := false, false
+	for _, s := range inFolder(t, "chest") {
+		ast.Inspect(s.file, func(n ast.Node) bool {
+			switch x := n.(type) {
+			case *ast.CallExpr:
+				panics = panics || isCall(x, "panic")
+			case *ast.DeferStmt:
+				f, ok := x.Call.Fun.(*ast.FuncLit)
+				recovers = recovers || ok && hasCall(f, "recover")
+			}
+			return true
+		})
+	}
+	if !panics {
+		t.Error("no malformed page ends reading by a panic")
+	}
+	if !recovers {
+		t.Error("no deferred function literal recovers a panic")
+	}
+}
+
+// isCall reports whether a function is called by its name alone.
+func isCall(call *ast.CallExpr, name string) bool {
+	f, ok := call.Fun.(*ast.Ident)
+	return ok && f.Name == name
+}
+
+func hasCall(in ast.Node, name string) bool {
+	has := false
+	ast.Inspect(in, func(n ast.Node) bool {
+		call, ok := n.(*ast.CallExpr)
+		has = has || ok && isCall(call, name)
+		return true
+	})
+	return has
+}
+
 func TestComments(t *testing.T) {
 	said := map[string]bool{}
 	for _, s := range sources(t) {
