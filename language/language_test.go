@@ -408,6 +408,54 @@ func hasCall(in ast.Node, name string) bool {
 	return has
 }
 
+// TestSaddlerWays: the ways of package saddler: commands are method expressions in a table; the words of a line are distinguished by a switch whose cases fall through.
+func TestSaddlerWays(t *testing.T) {
+	falls := false
+	inTable := map[string]bool{}
+	for _, s := range inFolder(t, "saddler") {
+		ast.Inspect(s.file, func(n ast.Node) bool {
+			switch x := n.(type) {
+			case *ast.CompositeLit: // a command in the table
+				for _, value := range x.Elts {
+					if name, ok := methodExpression(value, "Saddler"); ok {
+						inTable[name] = true
+					}
+				}
+			case *ast.CaseClause:
+				for _, statement := range x.Body {
+					branch, ok := statement.(*ast.BranchStmt)
+					falls = falls || ok && branch.Tok == token.FALLTHROUGH
+				}
+			}
+			return true
+		})
+	}
+	if len(inTable) < 50 {
+		t.Errorf("%d method expressions are in tables", len(inTable))
+	}
+	if !falls {
+		t.Error("no case falls through")
+	}
+}
+
+// methodExpression returns the name of a method that is written as (*Type).method.
+func methodExpression(value ast.Expr, kind string) (string, bool) {
+	x, ok := value.(*ast.SelectorExpr)
+	if !ok {
+		return "", false
+	}
+	in, ok := x.X.(*ast.ParenExpr)
+	if !ok {
+		return "", false
+	}
+	star, ok := in.X.(*ast.StarExpr)
+	if !ok {
+		return "", false
+	}
+	of, ok := star.X.(*ast.Ident)
+	return x.Sel.Name, ok && of.Name == kind
+}
+
 func TestComments(t *testing.T) {
 	said := map[string]bool{}
 	for _, s := range sources(t) {
